@@ -61,14 +61,12 @@ func CoinShare(total int, weights []int) ([]int, bool) {
 	if !ok || total < 0 || total > CoinMax {
 		return nil, false
 	}
-	left := total
 	shares := make([]share, len(weights))
 	for i, w := range weights {
 		part, rest, _ := amount(total).divide(w, sum, roundDown)
 		shares[i] = share{place: i, part: int(part), rest: rest}
-		left -= int(part)
 	}
-	return dealLeft(shares, left), true
+	return dealLeft(shares, total), true
 }
 
 // CoinText writes an amount.
@@ -170,8 +168,12 @@ func weightSum(weights []int) (int, bool) {
 	return sum, sum > 0
 }
 
-// dealLeft is the parts by place, one unit more for as many as are left, the greatest rests first.
-func dealLeft(shares []share, left int) []int {
+// dealLeft is the parts by place, one unit more for as many as are left of the total, the greatest rests first.
+func dealLeft(shares []share, total int) []int {
+	left := total
+	for _, s := range shares {
+		left -= s.part
+	}
 	slices.SortFunc(shares, greaterRest)
 	parts := make([]int, len(shares))
 	for i, s := range shares {
